@@ -31,19 +31,73 @@ func TestSumsThatBeginAtOnceAreAllRight(t *testing.T) {
 	}
 }
 
-// bitByBit is the sum as the chapter tells it.
-func bitByBit(b []byte) uint32 {
-	register := uint32(0xffffffff)
+// spoiled are tables with words that are not right: none, all the same, one place on, one bit off.
+func spoiled(right [256]uint32) [][256]uint32 {
+	var none, same, moved, off [256]uint32
+	for i := range right {
+		same[i] = 0xffffffff
+		moved[i] = right[(i+1)%256]
+		off[i] = right[i] ^ 1
+	}
+	return [][256]uint32{none, same, moved, off}
+}
+
+func TestTheTableIsMadeAtASumAndOnce(t *testing.T) {
+	crc.Sum(nil)
+	right := crc.Table()
+	defer crc.SetTable(right)
+	for i, got := range right {
+		if want := register(uint32(i), []byte{0}); got != want {
+			t.Errorf("word %d: got %x, want %x", i, got, want)
+		}
+	}
+	for _, words := range spoiled(right) {
+		crc.SetTable(words)
+		crc.Sum(mixed(20))
+		if crc.Table() != words {
+			t.Error("a later sum made the table again")
+		}
+	}
+}
+
+func TestNoAnswerHangsOnTheTable(t *testing.T) {
+	crc.Sum(nil)
+	right := crc.Table()
+	defer crc.SetTable(right)
+	for _, words := range spoiled(right) {
+		crc.SetTable(words)
+		for length := range 100 {
+			text := mixed(length)
+			if got, want := crc.Sum(text), bitByBit(text); got != want {
+				t.Errorf("Sum of %d bytes: got %x, want %x", length, got, want)
+			}
+			b, e := crc.Seal(text)
+			wantBytes(t, "Seal", b, e, sealedByHand(text), api.OK)
+			b, e = crc.Open(sealedByHand(text))
+			wantBytes(t, "Open", b, e, text, api.OK)
+			b, e = crc.Open(turned(sealedByHand(text), 4*length, 1))
+			wantBytes(t, "Open, wrong", b, e, nil, api.ErrSum)
+		}
+	}
+}
+
+// register is what the chapter's register comes to over b.
+func register(r uint32, b []byte) uint32 {
 	for _, x := range b {
 		for bit := range 8 {
-			unlike := uint32(x)>>bit&1 != register&1
-			register >>= 1
+			unlike := uint32(x)>>bit&1 != r&1
+			r >>= 1
 			if unlike {
-				register ^= 0x82f63b78
+				r ^= 0x82f63b78
 			}
 		}
 	}
-	return ^register
+	return r
+}
+
+// bitByBit is the sum as the chapter tells it.
+func bitByBit(b []byte) uint32 {
+	return ^register(0xffffffff, b)
 }
 
 // mixed is a text of that length with all kinds of bytes.
