@@ -84,6 +84,18 @@ func (w *Writer) Stamp(s api.Stamp) {
 	w.Byte(s.Peer)
 }
 
+// AddAll writes l by a layer's call, its count ahead of it in size bytes, unless there are more than most.
+func AddAll[T any](w *Writer, l []T, size, most int, write func(x T) ([]byte, api.Errno)) {
+	w.Count(len(l), size, most)
+	for _, x := range l {
+		// Nothing mends what is bad, and the rest may be long.
+		if w.bad {
+			return
+		}
+		w.Add(write(x))
+	}
+}
+
 // Bytes answers all that was written, unless something could not be.
 func (w *Writer) Bytes() ([]byte, api.Errno) {
 	if w.bad {
@@ -111,6 +123,20 @@ func Take[T any](r *Reader, read func(b []byte, at int) (T, int, api.Errno)) T {
 		x, r.at, r.e = read(r.b, r.at)
 	}
 	return x
+}
+
+// TakeAll reads up to most things by a layer's call that have their count ahead of them, in size bytes.
+func TakeAll[T any](r *Reader, size, most int, read func(b []byte, at int) (T, int, api.Errno)) []T {
+	var l []T
+	// The list grows by what stands there: a count alone must not claim memory.
+	for range r.Count(size, most) {
+		x := Take(r, read)
+		if r.e != api.OK {
+			return nil
+		}
+		l = append(l, x)
+	}
+	return l
 }
 
 // Number reads a number of size bytes.

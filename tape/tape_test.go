@@ -10,6 +10,7 @@ import (
 	"raddle/api"
 	"raddle/tape"
 	"raddle/value"
+	"raddle/wire"
 )
 
 // step is something that is written, what it is as bytes, and how it is read again.
@@ -36,6 +37,10 @@ func steps() []step {
 		{func(w *tape.Writer) { w.Vector([]int{1, 2, 3, 4, 0x05060708}) }, []byte{5, 0, 0, 0, 1, 0, 0, 0, 2, 0, 0, 0, 3, 0, 0, 0, 4, 5, 6, 7, 8}, func(r *tape.Reader) bool { return slices.Equal(r.Vector(), []int{1, 2, 3, 4, 0x05060708}) }},
 		{func(w *tape.Writer) { w.Stamp(at) }, []byte{1, 2, 3, 4, 5, 6, 7, 8, 9, 10}, func(r *tape.Reader) bool { return r.Stamp() == at }},
 		{func(w *tape.Writer) { w.Add(value.Bytes(v)) }, []byte{4, 1, 'v'}, func(r *tape.Reader) bool { return tape.Take(r, value.Read) == v }},
+		{func(w *tape.Writer) { tape.AddAll(w, nil, 2, 0, value.Bytes) }, []byte{0, 0}, func(r *tape.Reader) bool { return len(tape.TakeAll(r, 2, 0, value.Read)) == 0 }},
+		{func(w *tape.Writer) { tape.AddAll(w, []api.Value{v, {Kind: api.Null}}, 2, 2, value.Bytes) }, []byte{0, 2, 4, 1, 'v', 1}, func(r *tape.Reader) bool {
+			return slices.Equal(tape.TakeAll(r, 2, 2, value.Read), []api.Value{v, {Kind: api.Null}})
+		}},
 	}
 }
 
@@ -106,6 +111,14 @@ func TestWhatCannotBeWrittenIsKeptInMind(t *testing.T) {
 		func(w *tape.Writer) { w.Stamp(api.Stamp{Peer: -1}) },
 		func(w *tape.Writer) { w.Add(value.Bytes(api.Value{})) },
 		func(w *tape.Writer) { w.Add([]byte{1}, api.ErrLen) },
+		func(w *tape.Writer) {
+			tape.AddAll(w, slices.Repeat([]api.Value{{Kind: api.Null}}, 3), 1, 2, value.Bytes)
+		},
+		func(w *tape.Writer) {
+			tape.AddAll(w, slices.Repeat([]api.Value{{Kind: api.Null}}, 256), 1, 1000, value.Bytes)
+		},
+		func(w *tape.Writer) { tape.AddAll(w, []api.Value{{}, {Kind: api.Null}}, 1, 2, value.Bytes) },
+		func(w *tape.Writer) { tape.AddAll(w, []api.Value{{Kind: api.Null}, {}}, 1, 2, value.Bytes) },
 	} {
 		var w tape.Writer
 		w.Byte(1)
@@ -136,6 +149,7 @@ func TestReadBoundsTheCounts(t *testing.T) {
 		func(r *tape.Reader) { r.Count(1, 5) },
 		func(r *tape.Reader) { r.Dots(5) },
 		func(r *tape.Reader) { r.Vector() },
+		func(r *tape.Reader) { tape.TakeAll(r, 1, 5, wire.GetText) },
 	} {
 		for count := range 256 {
 			r := tape.NewReader(append([]byte{byte(count)}, make([]byte, 2000)...), 0)
@@ -145,6 +159,35 @@ func TestReadBoundsTheCounts(t *testing.T) {
 			}
 		}
 	}
+}
+
+// Of what cannot be read whole nothing is answered, and what stands behind it is not asked for.
+func TestTakeAllEndsAtTheFirstThatCannotBeRead(t *testing.T) {
+	asked := 0
+	read := func(b []byte, at int) (string, int, api.Errno) {
+		asked++
+		return wire.GetText(b, at)
+	}
+	r := tape.NewReader([]byte{255, 255, 1, 'a', 2, 'b'}, 0)
+	if l := tape.TakeAll(r, 2, 1<<16-1, read); len(l) != 0 || asked != 2 {
+		t.Errorf("got %v, asked %d times", l, asked)
+	}
+	wantEnd(t, r, 0, api.ErrBytes)
+}
+
+func TestAddAllEndsAtTheFirstThatCannotBeWritten(t *testing.T) {
+	asked := 0
+	write := func(x api.Value) ([]byte, api.Errno) {
+		asked++
+		return value.Bytes(x)
+	}
+	var w tape.Writer
+	tape.AddAll(&w, []api.Value{{Kind: api.Null}, {}, {Kind: api.Null}}, 1, 3, write)
+	tape.AddAll(&w, make([]api.Value, 4), 1, 3, write)
+	if asked != 2 {
+		t.Errorf("asked %d times", asked)
+	}
+	wantWritten(t, &w, nil, api.ErrArg)
 }
 
 func TestAPlaceThatIsNoneIsTold(t *testing.T) {
