@@ -7,86 +7,36 @@ import (
 	"testing"
 
 	"raddle/api"
+	"raddle/rooms"
 	"raddle/tab"
 )
 
 // R2
 
-// room is the memory of a list, with what lies behind its length.
-type room struct {
-	mark func(n int)
-	has  func(n int) bool
-	show func() string
-}
-
-// roomOf has that of l; made makes an element that is told by a number.
-func roomOf[T any](l []T, made func(n int) T) room {
-	l = l[:cap(l)]
-	return room{
-		mark: func(n int) {
-			for i := range l {
-				l[i] = made(n)
-			}
-		},
-		has: func(n int) bool {
-			return !slices.ContainsFunc(l, func(x T) bool { return fmt.Sprint(x) != fmt.Sprint(made(n)) })
-		},
-		show: func() string { return fmt.Sprint(l) },
-	}
-}
-
-func madeInt(n int) int         { return n }
-func madeDot(n int) api.Dot     { return by(n, n) }
-func madeValue(n int) api.Value { return num(n) }
-func madeCell(n int) api.Cell   { return cell(num(n), n, n, n, n) }
-func madeRow(n int) api.Row     { return api.Row{Key: fmt.Sprint(n)} }
-
-func roomsOfRows(l []api.Row) []room {
-	all := []room{roomOf(l, madeRow)}
+func roomsOfRows(l []api.Row) []rooms.Room {
+	all := []rooms.Room{rooms.Of(l, madeRow, sameRow)}
 	for _, r := range l {
-		all = append(all, roomOf(r.Dots, madeDot), roomOf(r.Cells, madeCell))
+		all = append(all, rooms.Dots(r.Dots)...)
+		all = append(all, rooms.OfPlain(r.Cells, madeCell))
 	}
 	return all
-}
-
-func roomsOfOp(x api.Op) []room {
-	return []room{roomOf(x.Deps, madeInt), roomOf(x.Vals, madeValue), roomOf(x.Dots, madeDot)}
-}
-
-func roomsOfSeen(l [][]api.Value) []room {
-	all := []room{roomOf(l, func(n int) []api.Value { return []api.Value{num(n)} })}
-	for _, r := range l {
-		all = append(all, roomOf(r, madeValue))
-	}
-	return all
-}
-
-func showAll(all []room) string {
-	s := ""
-	for _, r := range all {
-		s += r.show() + "\n"
-	}
-	return s
-}
-
-// roomy has l with spare room behind it, in which something lies that would be seen if it were read.
-func roomy[T any](l []T, made func(n int) T) []T {
-	out := append(slices.Clone(l), made(3), made(2), made(1))
-	return out[:len(l)]
 }
 
 func roomyRows(l []api.Row) []api.Row {
-	out := roomy(l, func(n int) api.Row { return there(fmt.Sprint("spare", n)) })
+	out := rooms.Spare(l, func(n int) api.Row { return there(fmt.Sprint("spare", n)) })
 	for i, r := range l {
-		out[i].Dots, out[i].Cells = roomy(r.Dots, madeDot), roomy(r.Cells, madeCell)
+		out[i].Dots, out[i].Cells = rooms.SpareDots(r.Dots), rooms.Spare(r.Cells, madeCell)
 	}
 	return out
 }
 
 func roomyOp(x api.Op) api.Op {
-	x.Deps, x.Vals, x.Dots = roomy(x.Deps, madeInt), roomy(x.Vals, madeValue), roomy(x.Dots, madeDot)
+	x.Deps, x.Vals, x.Dots = rooms.SpareInts(x.Deps), rooms.SpareValues(x.Vals), rooms.SpareDots(x.Dots)
 	return x
 }
+
+func madeCell(n int) api.Cell { return cell(num(n), n, n, n, n) }
+func madeRow(n int) api.Row   { return api.Row{Key: fmt.Sprint(n)} }
 
 // call is one of Apply, or of Compact, and of Seen, with a form, rows and an operation or a frontier.
 type call struct {
@@ -97,22 +47,20 @@ type call struct {
 }
 
 func (c call) roomy() call {
-	return call{api.Table{Cols: roomy(c.f.Cols, madeInt)}, roomyRows(c.l), roomyOp(c.x), roomy(c.frontier, madeInt)}
+	return call{api.Table{Cols: rooms.SpareInts(c.f.Cols)}, roomyRows(c.l), roomyOp(c.x), rooms.SpareInts(c.frontier)}
 }
 
-func (c call) rooms() []room {
-	all := append(roomsOfRows(c.l), roomOf(c.f.Cols, madeInt), roomOf(c.frontier, madeInt))
-	return append(all, roomsOfOp(c.x)...)
+func (c call) rooms() []rooms.Room {
+	rest := slices.Concat(rooms.Ints(c.f.Cols), rooms.Ints(c.frontier), rooms.Ints(c.x.Deps), rooms.Values(c.x.Vals), rooms.Dots(c.x.Dots))
+	return append(roomsOfRows(c.l), rest...)
 }
 
 // answers asks all calls; it has the memory of what they answer, and tells it as it is up to its length.
-func (c call) answers() (all []room, told string) {
+func (c call) answers() (all []rooms.Room, told string) {
 	next, gone, come, e := tab.Apply(c.f, c.l, c.x)
 	left, n, g := tab.Compact(c.f, c.l, c.frontier)
 	seen := tab.Seen(c.f, c.l)
-	all = append(roomsOfRows(next), roomOf(gone, madeValue), roomOf(come, madeValue))
-	all = append(all, roomsOfRows(left)...)
-	all = append(all, roomsOfSeen(seen)...)
+	all = slices.Concat(roomsOfRows(next), rooms.Values(gone), rooms.Values(come), roomsOfRows(left), rooms.Rows(seen))
 	return all, fmt.Sprint(next, gone, come, e, left, n, g, seen, tab.Check(c.f, c.l), tab.Find(c.l, c.x.Key), tab.Dead(c.l))
 }
 
@@ -133,36 +81,13 @@ func calls() []call {
 	return append(all, call{form(), rows(), again, []int{0}}, call{form(), rows(), at(again, 0, 0), []int{1}}, call{api.Table{}, rows(), again, []int{1}})
 }
 
-func TestWhatIsHandedInStays(t *testing.T) {
-	for i, c := range calls() {
-		in := c.roomy()
-		rooms := in.rooms()
-		was := showAll(rooms)
-		for range 2 {
-			in.answers()
-			if now := showAll(rooms); now != was {
-				t.Fatalf("call %d: handed in was %s, and is %s", i, was, now)
-			}
-		}
-	}
-}
-
-// Each list is written over, up to the end of its memory: none of an answer is touched by what is done to another one,
-// of that answer, of another, or of what was handed in.
+// What is handed in stays, and none of an answer is touched by what is done to another one, of that answer, of another,
+// or of what was handed in.
 func TestAnswersAreNewMemory(t *testing.T) {
 	for i, c := range calls() {
 		in := c.roomy()
-		args := in.rooms()
-		first, _ := in.answers()
-		second, _ := in.answers()
-		all := slices.Concat(args, first, second)
-		for n, r := range all {
-			r.mark(1000 + n)
-		}
-		for n, r := range all {
-			if !r.has(1000 + n) {
-				t.Errorf("call %d, %+v: list %d shares memory with another one (%d are handed in, %d are told, twice)", i, c.x, n, len(args), len(first))
-			}
+		if fault := rooms.Fault(in.rooms(), in.answers); fault != "" {
+			t.Errorf("call %d, %v: %s", i, c, fault)
 		}
 	}
 }
@@ -180,21 +105,9 @@ func TestOneListAtSeveralPlaces(t *testing.T) {
 		for i, x := range ops {
 			x.Deps = frontier
 			c := call{form(), []api.Row{base, twin, dead, third}, x, frontier}
-			rooms := c.rooms()
-			was := showAll(rooms)
-			first, told := c.answers()
-			second, again := c.answers()
-			if showAll(rooms) != was || told != again {
-				t.Fatalf("%q, operation %d: handed in is now %s", key, i, showAll(rooms))
-			}
-			answers := slices.Concat(first, second)
-			for n, r := range answers {
-				r.mark(1000 + n)
-			}
-			for n, r := range answers {
-				if !r.has(1000+n) || showAll(rooms) != was {
-					t.Errorf("%q, operation %d: list %d shares memory", key, i, n)
-				}
+			stays := rooms.Keep(c.rooms())
+			if fault := rooms.Fault(nil, c.answers); fault != "" || !stays() {
+				t.Errorf("%q, operation %d: %s; handed in is now %v", key, i, fault, c)
 			}
 		}
 	}
