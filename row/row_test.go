@@ -4,11 +4,11 @@ import (
 	"bytes"
 	"math"
 	"slices"
-	"strings"
 	"testing"
 
 	"raddle/api"
 	"raddle/row"
+	"raddle/samples"
 	"raddle/value"
 )
 
@@ -16,9 +16,6 @@ func null() api.Value         { return api.Value{Kind: api.Null} }
 func truth(i int) api.Value   { return api.Value{Kind: api.Bool, I: i} }
 func num(i int) api.Value     { return api.Value{Kind: api.Int, I: i} }
 func text(s string) api.Value { return api.Value{Kind: api.Text, S: s} }
-
-// longest is as long as a text may be.
-func longest() string { return strings.Repeat("x", api.MaxText) }
 
 // counted has n Values, each of them told apart from the others.
 func counted(n int) []api.Value {
@@ -51,7 +48,7 @@ func ascending() [][]api.Value {
 		{null(), text("z")},
 		{truth(0)},
 		{truth(0), num(-api.MaxValue)},
-		{truth(0), text(longest())},
+		{truth(0), text(samples.Longest())},
 		{truth(1)},
 		{num(-api.MaxValue)},
 		{num(-1), text("b"), num(9)},
@@ -69,29 +66,18 @@ func ascending() [][]api.Value {
 		{text(""), text("")},
 		{text("10"), num(5)},
 		{text("9"), num(3)},
+		{text(samples.Longest())},
+		same(api.MaxArity, text(samples.Longest())),
 		{text("a"), null(), truth(1), num(-256), text("ab")},
 		{text("a"), truth(0)},
-		{text(longest())},
-		same(api.MaxArity, text(longest())),
 		{text("\xff")},
-	}
-}
-
-// wrongValues has one of each way in which a Value is not right.
-func wrongValues() []api.Value {
-	return []api.Value{
-		{}, {Kind: -1}, {Kind: api.Text + 1}, {Kind: 256 + api.Int},
-		{Kind: api.Null, I: 1}, {Kind: api.Null, S: "x"},
-		truth(-1), truth(2), {Kind: api.Bool, S: "x"},
-		num(-api.MaxValue - 1), num(api.MaxValue + 1), num(math.MinInt), {Kind: api.Int, S: "x"},
-		text(longest() + "x"), {Kind: api.Text, I: 1},
 	}
 }
 
 // wrong has rows that are not too long, with a Value that is not right at the first place, in the middle, and at the last.
 func wrong() [][]api.Value {
 	var all [][]api.Value
-	for _, v := range wrongValues() {
+	for _, v := range samples.WrongValues() {
 		all = append(all, []api.Value{v}, spoilt(3, 0, v), spoilt(3, 1, v), spoilt(3, 2, v), spoilt(api.MaxArity, 0, v), spoilt(api.MaxArity, api.MaxArity-1, v), same(api.MaxArity, v))
 	}
 	return all
@@ -101,7 +87,7 @@ func wrong() [][]api.Value {
 func tooLong() [][]api.Value {
 	over := api.MaxArity + 1
 	all := [][]api.Value{counted(over), counted(255), counted(256), counted(256 + 1), counted(api.MaxBytes), same(over, null()), make([]api.Value, over)}
-	for _, v := range wrongValues() {
+	for _, v := range samples.WrongValues() {
 		all = append(all, spoilt(over, 0, v), spoilt(over, over-1, v))
 	}
 	return all
@@ -220,7 +206,7 @@ func TestCompareOfRowsThatAreNotRight(t *testing.T) {
 		{null(), {Kind: 99}}, {{Kind: api.Null, S: "a"}}, {{Kind: api.Null, I: 1}},
 		{truth(math.MinInt)}, {truth(1)}, {truth(2)},
 		{num(math.MinInt), null()}, {num(-api.MaxValue - 1)}, {num(api.MaxValue + 1)}, {num(math.MaxInt)}, {{Kind: api.Int, I: math.MaxInt, S: "x"}},
-		{{Kind: api.Text, I: -1, S: "z"}}, {text(longest())}, {text(longest() + "x")}, {{Kind: api.Text, I: 1}},
+		{{Kind: api.Text, I: -1, S: "z"}}, {text(samples.Longest())}, {text(samples.Longest() + "x")}, {{Kind: api.Text, I: 1}},
 		same(api.MaxArity+1, api.Value{Kind: 98}), same(api.MaxArity+2, api.Value{Kind: 98}), {{Kind: math.MaxInt}},
 	}
 	for i, a := range up {
@@ -237,7 +223,7 @@ func TestCompareOfRowsThatAreNotRight(t *testing.T) {
 
 func TestFitsOfEveryKindAndType(t *testing.T) {
 	types := []int{math.MinInt, -1, 0, api.Null, api.Bool, api.Int, api.Text, api.Text + 1, 256 + api.Int, math.MaxInt}
-	values := append(wrongValues(), null(), truth(0), truth(1), num(-api.MaxValue), num(api.MaxValue), text(""), text(longest()))
+	values := append(samples.WrongValues(), null(), truth(0), truth(1), num(-api.MaxValue), num(api.MaxValue), text(""), text(samples.Longest()))
 	for _, v := range values {
 		for _, typ := range types {
 			want := value.Fits(v, typ)
@@ -341,7 +327,7 @@ func TestPickTellsAPlaceAheadOfTheLength(t *testing.T) {
 func TestPickTakesAnyRow(t *testing.T) {
 	long := counted(300)
 	wantPick(t, long, []int{299, 0}, []api.Value{num(299), num(0)}, api.OK)
-	for _, v := range wrongValues() {
+	for _, v := range samples.WrongValues() {
 		wantPick(t, []api.Value{num(1), v}, []int{1, 0}, []api.Value{v, num(1)}, api.OK)
 	}
 }
@@ -464,7 +450,7 @@ func TestTheOrderIsTotal(t *testing.T) {
 func TestWhatIsWrittenIsRead(t *testing.T) {
 	all := ascending()
 	for n := range api.MaxArity + 1 {
-		all = append(all, counted(n), same(n, text(longest())), same(n, truth(1)))
+		all = append(all, counted(n), same(n, text(samples.Longest())), same(n, truth(1)))
 	}
 	for _, r := range all {
 		b := written(t, r)

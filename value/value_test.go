@@ -7,6 +7,7 @@ import (
 	"testing"
 
 	"raddle/api"
+	"raddle/samples"
 	"raddle/value"
 )
 
@@ -14,30 +15,6 @@ func null() api.Value         { return api.Value{Kind: api.Null} }
 func truth(i int) api.Value   { return api.Value{Kind: api.Bool, I: i} }
 func num(i int) api.Value     { return api.Value{Kind: api.Int, I: i} }
 func text(s string) api.Value { return api.Value{Kind: api.Text, S: s} }
-
-// longest is as long as a text may be, with its first and its last byte told apart.
-func longest() string { return "<" + strings.Repeat("x", api.MaxText-2) + ">" }
-
-// ascending has right Values of every Kind at both ends, each ahead of those behind it.
-func ascending() []api.Value {
-	return []api.Value{
-		null(),
-		truth(0), truth(1),
-		num(-api.MaxValue), num(-api.MaxValue + 1), num(-api.MaxInt - 1), num(-api.MaxInt), num(-256), num(-1), num(0), num(1), num(255), num(256), num(api.MaxInt), num(api.MaxInt + 1), num(api.MaxValue - 1), num(api.MaxValue),
-		text(""), text("\x00"), text("\x00\x00"), text("-1"), text("0"), text("10"), text("9"), text(longest()), text("A"), text("a"), text("a\x00"), text("ab"), text("b"), text(strings.Repeat("x", api.MaxText-1)), text(strings.Repeat("x", api.MaxText)), text("\x7f"), text("\xc3\xa4"), text("\xff"), text(strings.Repeat("\xff", api.MaxText)),
-	}
-}
-
-// wrong has Values one beyond each end, of Kinds that there are not, and with fields set that the Kind leaves alone.
-func wrong() []api.Value {
-	return []api.Value{
-		{}, {I: 1}, {S: "x"}, {Kind: -1}, {Kind: -api.Int, I: 1}, {Kind: api.Text + 1}, {Kind: api.Text + 1, S: "x"}, {Kind: 256 + api.Null}, {Kind: 256 + api.Int}, {Kind: math.MaxInt}, {Kind: math.MinInt},
-		{Kind: api.Null, I: 1}, {Kind: api.Null, I: -1}, {Kind: api.Null, S: "x"}, {Kind: api.Null, S: "\x00"},
-		truth(-1), truth(2), truth(256), truth(257), truth(math.MaxInt), truth(math.MinInt), {Kind: api.Bool, S: "x"}, {Kind: api.Bool, I: 1, S: "\x00"},
-		num(-api.MaxValue - 1), num(api.MaxValue + 1), num(math.MinInt), num(math.MaxInt), {Kind: api.Int, S: "x"}, {Kind: api.Int, I: 5, S: "5"},
-		text(longest() + "x"), text(strings.Repeat("x", 255)), text(strings.Repeat("x", 256)), text(strings.Repeat("x", api.MaxBytes)), {Kind: api.Text, I: 1}, {Kind: api.Text, I: -1, S: "x"}, {Kind: api.Text, I: math.MinInt, S: longest()},
-	}
-}
 
 // wantBytes holds what Bytes answered against what it should be.
 func wantBytes(t *testing.T, v api.Value, want []byte, wantE api.Errno) {
@@ -69,7 +46,7 @@ func written(t *testing.T, v api.Value) []byte {
 // P3.1
 
 func TestCheckTakesRightValues(t *testing.T) {
-	for _, v := range ascending() {
+	for _, v := range samples.Values() {
 		if e := value.Check(v); e != api.OK {
 			t.Errorf("%v: got %d", v, e)
 		}
@@ -77,7 +54,7 @@ func TestCheckTakesRightValues(t *testing.T) {
 }
 
 func TestCheckRefusesOthers(t *testing.T) {
-	for _, v := range wrong() {
+	for _, v := range samples.WrongValues() {
 		if e := value.Check(v); e != api.ErrArg {
 			t.Errorf("%v: got %d, want %d", v, e, api.ErrArg)
 		}
@@ -85,7 +62,7 @@ func TestCheckRefusesOthers(t *testing.T) {
 }
 
 func TestCompareOfRightValues(t *testing.T) {
-	all := ascending()
+	all := samples.Values()
 	for i, a := range all {
 		for j, b := range all {
 			want := 0
@@ -101,16 +78,8 @@ func TestCompareOfRightValues(t *testing.T) {
 	}
 }
 
-// The loops stand from the field that counts most to the one that counts least, so that up ascends.
 func TestCompareOfAnyTwo(t *testing.T) {
-	var up []api.Value
-	for _, kind := range []int{math.MinInt, -1, 0, api.Null, api.Bool, api.Int, api.Text, api.Text + 1, math.MaxInt} {
-		for _, i := range []int{math.MinInt, -api.MaxValue - 1, -1, 0, 1, 2, api.MaxValue + 1, math.MaxInt} {
-			for _, s := range []string{"", "\x00", longest() + "~~", "a", "ab", "b", "\xff"} {
-				up = append(up, api.Value{Kind: kind, I: i, S: s})
-			}
-		}
-	}
+	up := samples.AnyValues()
 	for i, a := range up {
 		for j, b := range up {
 			got := value.Compare(a, b)
@@ -122,7 +91,7 @@ func TestCompareOfAnyTwo(t *testing.T) {
 }
 
 func TestNullIsAheadOfAllOthers(t *testing.T) {
-	for _, v := range ascending()[1:] {
+	for _, v := range samples.Values()[1:] {
 		if value.Compare(null(), v) != -1 || value.Compare(v, null()) != 1 {
 			t.Errorf("%v is not behind Null", v)
 		}
@@ -132,7 +101,7 @@ func TestNullIsAheadOfAllOthers(t *testing.T) {
 func TestFitsOfEveryKindAndType(t *testing.T) {
 	types := []int{api.Bool, api.Int, api.Text}
 	others := []int{math.MinInt, -1, -api.Int, 0, api.Null, api.Text + 1, 256 + api.Int, math.MaxInt}
-	for _, v := range ascending() {
+	for _, v := range samples.Values() {
 		for _, typ := range types {
 			want := v.Kind == api.Null || v.Kind == typ
 			if got := value.Fits(v, typ); got != want {
@@ -145,7 +114,7 @@ func TestFitsOfEveryKindAndType(t *testing.T) {
 			}
 		}
 	}
-	for _, v := range wrong() {
+	for _, v := range samples.WrongValues() {
 		for _, typ := range append(append(types, others...), v.Kind) {
 			if value.Fits(v, typ) {
 				t.Errorf("Fits(%v, %d): got true, of what is not right", v, typ)
@@ -155,7 +124,7 @@ func TestFitsOfEveryKindAndType(t *testing.T) {
 }
 
 func TestSmall(t *testing.T) {
-	for _, v := range ascending() {
+	for _, v := range samples.Values() {
 		want := v.Kind != api.Int || v.I >= -api.MaxInt && v.I <= api.MaxInt
 		if got := value.Small(v); got != want {
 			t.Errorf("Small(%v): got %t", v, got)
@@ -169,7 +138,7 @@ func TestSmall(t *testing.T) {
 			t.Errorf("Small of %d: got %t", c.i, got)
 		}
 	}
-	for _, v := range wrong() {
+	for _, v := range samples.WrongValues() {
 		if value.Small(v) {
 			t.Errorf("Small(%v): got true, of what is not right", v)
 		}
@@ -190,11 +159,11 @@ func TestBytesOfEveryKind(t *testing.T) {
 	wantBytes(t, text(""), []byte{4, 0}, api.OK)
 	wantBytes(t, text("ab"), []byte{4, 2, 'a', 'b'}, api.OK)
 	wantBytes(t, text("\x00\xff"), []byte{4, 2, 0, 255}, api.OK)
-	wantBytes(t, text(longest()), append([]byte{4, api.MaxText}, longest()...), api.OK)
+	wantBytes(t, text(samples.Longest()), append([]byte{4, api.MaxText}, samples.Longest()...), api.OK)
 }
 
 func TestBytesTellsChecksError(t *testing.T) {
-	for _, v := range wrong() {
+	for _, v := range samples.WrongValues() {
 		wantBytes(t, v, nil, api.ErrArg)
 	}
 }
@@ -221,7 +190,7 @@ func TestReadTellsWrongPlaces(t *testing.T) {
 }
 
 func TestReadTellsBytesThatAreCutShort(t *testing.T) {
-	for _, v := range ascending() {
+	for _, v := range samples.Values() {
 		b := append([]byte{200}, written(t, v)...)
 		for cut := 1; cut < len(b); cut++ {
 			wantRead(t, b[:cut], 1, api.Value{}, 0, api.ErrBytes)
@@ -272,7 +241,7 @@ func TestReadRefusesOtherTexts(t *testing.T) {
 // P3.3
 
 func TestTheOrderIsTotal(t *testing.T) {
-	all := append(ascending(), wrong()...)
+	all := append(samples.Values(), samples.WrongValues()...)
 	for _, a := range all {
 		for _, b := range all {
 			ab := value.Compare(a, b)
@@ -289,7 +258,7 @@ func TestTheOrderIsTotal(t *testing.T) {
 }
 
 func TestWhatIsWrittenIsRead(t *testing.T) {
-	for _, v := range ascending() {
+	for _, v := range samples.Values() {
 		b := written(t, v)
 		wantRead(t, b, 0, v, len(b), api.OK)
 		wantRead(t, append([]byte{1, 2}, append(bytes.Clone(b), 3, 4)...), 2, v, 2+len(b), api.OK)
@@ -313,11 +282,11 @@ func TestWhatIsWrittenIsRead(t *testing.T) {
 
 func TestAMixOfAllIsReadInItsOrder(t *testing.T) {
 	var b []byte
-	for _, v := range ascending() {
+	for _, v := range samples.Values() {
 		b = append(b, written(t, v)...)
 	}
 	at := 0
-	for _, want := range ascending() {
+	for _, want := range samples.Values() {
 		v, next, e := value.Read(b, at)
 		if v != want || e != api.OK {
 			t.Fatalf("at %d: got %v, %d; want %v", at, v, e, want)
@@ -357,7 +326,7 @@ func TestWhatIsReadIsWrittenAgain(t *testing.T) {
 // R2
 
 func TestReadingLeavesWhatWasHandedIn(t *testing.T) {
-	for _, v := range ascending() {
+	for _, v := range samples.Values() {
 		room := bytes.Repeat([]byte{42}, 64)
 		n := copy(room[8:], written(t, v))
 		before := bytes.Clone(room)
@@ -382,7 +351,7 @@ func TestWhatIsReadIsNotTouchedLater(t *testing.T) {
 }
 
 func TestWhatIsWrittenIsNewMemory(t *testing.T) {
-	for _, v := range ascending() {
+	for _, v := range samples.Values() {
 		first, second := written(t, v), written(t, v)
 		kept := bytes.Clone(second)
 		first = first[:cap(first)]
@@ -402,10 +371,10 @@ func TestWhatIsWrittenIsNewMemory(t *testing.T) {
 }
 
 func TestATextIsNotTouchedByWhatIsWritten(t *testing.T) {
-	s := longest()
+	s := samples.Longest()
 	b := written(t, text(s))
 	clear(b[:cap(b)])
-	if s != longest() {
+	if s != samples.Longest() {
 		t.Errorf("got %q", s)
 	}
 }
@@ -427,7 +396,7 @@ func TestAnswersHangOnArgumentsAlone(t *testing.T) {
 // R6
 
 func TestReadingStopsAtTheLength(t *testing.T) {
-	for _, v := range ascending() {
+	for _, v := range samples.Values() {
 		b := written(t, v)
 		for cut := range b {
 			wantRead(t, b[:cut:len(b)], 0, api.Value{}, 0, api.ErrBytes)
