@@ -20,16 +20,16 @@ type call struct {
 	r     []api.Value
 }
 
-func (c call) roomy() call {
+func (c call) Roomy() call {
 	return call{c.p, rooms.SpareInts(c.types), rooms.SpareValues(c.r)}
 }
 
-func (c call) rooms() []rooms.Room {
+func (c call) Rooms() []rooms.Room {
 	return slices.Concat(rooms.Ints(c.types), rooms.Values(c.r))
 }
 
-// answers has no memory, for none is answered.
-func (c call) answers() (none []rooms.Room, told string) {
+// Answers has no memory, for none is answered.
+func (c call) Answers() (none []rooms.Room, told string) {
 	return nil, fmt.Sprint(pred.Check(c.p, c.types), pred.Holds(c.p, c.r))
 }
 
@@ -54,36 +54,11 @@ func calls() []call {
 
 // R2 and R3
 
-func TestWhatIsHandedInStaysAsItWas(t *testing.T) {
-	for i, c := range calls() {
-		in := c.roomy()
-		stays := rooms.Keep(in.rooms())
-		if fault := rooms.Fault(nil, in.answers); fault != "" || !stays() {
-			t.Errorf("call %d, %v: %s; handed in is now %v", i, c, fault, in)
-		}
-	}
-}
-
-// No place is one that lies behind the length of a list.
-func TestSpareRoomIsNotRead(t *testing.T) {
-	for i, c := range calls() {
-		_, want := c.answers()
-		if _, got := c.roomy().answers(); got != want {
-			t.Errorf("call %d, %v: got %s, want %s", i, c, got, want)
-		}
-	}
-}
-
-func TestAnswersHangOnArgumentsAlone(t *testing.T) {
-	var want []string
-	for _, c := range calls() {
-		_, told := c.answers()
-		want = append(want, told)
-	}
-	for i, c := range slices.Backward(calls()) {
-		if _, told := c.answers(); told != want[i] {
-			t.Errorf("call %d, %v: got %s, and then %s", i, c, want[i], told)
-		}
+// What is handed in stays. No place is one that lies behind the length of a list, and what was asked ahead does not tell
+// in what is told.
+func TestMemoryOfAnswers(t *testing.T) {
+	for _, fault := range rooms.Faults(calls()) {
+		t.Error(fault)
 	}
 }
 

@@ -13,10 +13,12 @@ type Room struct {
 	mark func(n int)
 	has  func(n int) bool
 	keep func() func() bool
+	bare func() bool
 }
 
 // Of answers that of l. An element that made tells by a number is like no other one by same.
 func Of[T any](l []T, made func(n int) T, same func(a, b T) bool) Room {
+	rest := l[len(l):cap(l)]
 	l = l[:cap(l)]
 	return Room{
 		mark: func(n int) {
@@ -30,6 +32,10 @@ func Of[T any](l []T, made func(n int) T, same func(a, b T) bool) Room {
 		keep: func() func() bool {
 			was := slices.Clone(l)
 			return func() bool { return slices.EqualFunc(l, was, same) }
+		},
+		bare: func() bool {
+			var zero T
+			return !slices.ContainsFunc(rest, func(x T) bool { return !same(x, zero) })
 		},
 	}
 }
@@ -66,8 +72,9 @@ func Sharing(all []Room) []int {
 }
 
 // Fault asks twice, and answers what is wrong then: that what is told hangs on more than what is handed in, that what
-// is handed in does not stay, or that lists share memory, the places of those handed in ahead of what each asking
-// answers. It answers an empty text where nothing is. In the end all is written over.
+// is handed in does not stay, that lists share memory, the places of those handed in ahead of what each asking
+// answers, or that something lies behind one that is answered. It answers an empty text where nothing is. In the end
+// all is written over.
 func Fault(in []Room, ask func() (answer []Room, told string)) string {
 	stays := Keep(in)
 	first, told := ask()
@@ -78,8 +85,13 @@ func Fault(in []Room, ask func() (answer []Room, told string)) string {
 	if !stays() {
 		return "what is handed in has changed"
 	}
+	// It is asked ahead of Sharing, which writes behind the lists too.
+	bare := !slices.ContainsFunc(first, func(r Room) bool { return !r.bare() })
 	if places := Sharing(slices.Concat(in, first, second)); len(places) > 0 {
 		return "lists share memory: " + numbers(places) + " of " + numbers([]int{len(in), len(first), len(second)})
+	}
+	if !bare {
+		return "something lies behind a list that is answered"
 	}
 	return ""
 }

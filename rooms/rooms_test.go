@@ -1,6 +1,7 @@
 package rooms_test
 
 import (
+	"fmt"
 	"slices"
 	"testing"
 
@@ -87,6 +88,9 @@ func TestFault(t *testing.T) {
 		"lists share memory: 1 3 4 of 1 3 3": func([]int) ([]rooms.Room, string) {
 			return slices.Concat(rooms.Ints(shared[:1]), rooms.Ints([]int{4}), rooms.Ints(shared[1:])), ""
 		},
+		"something lies behind a list that is answered": func([]int) ([]rooms.Room, string) {
+			return slices.Concat(rooms.Ints(make([]int, 2, 5)), rooms.Ints([]int{1, 2}[:1])), ""
+		},
 	} {
 		in := make([]int, 2, 5)
 		if got := rooms.Fault(rooms.Ints(in), func() ([]rooms.Room, string) { return ask(in) }); got != want {
@@ -111,5 +115,80 @@ func TestSpare(t *testing.T) {
 	}
 	if got := rooms.Sharing(slices.Concat(rooms.Items(in), rooms.Items(z), rooms.Rows(l))); len(got) != 0 {
 		t.Errorf("shared: %v", got)
+	}
+}
+
+func TestFaultOfWhatLiesBehindAnswers(t *testing.T) {
+	r := func() []api.Value { return []api.Value{num(1), num(0), {}} }
+	for i, ask := range []func() []rooms.Room{
+		func() []rooms.Room { return rooms.Ints([]int{0, 1}[:1]) },
+		func() []rooms.Room { return rooms.Dots([]api.Dot{{}, {}, {N: 1}}[:0]) },
+		func() []rooms.Room { return rooms.Values(r()[:1]) },
+		func() []rooms.Room { return rooms.Rows([][]api.Value{nil, r()}[:1]) },
+		func() []rooms.Room { return rooms.Rows([][]api.Value{r(), r()[:1]}) },
+		func() []rooms.Room { return rooms.Items([]api.Item{{W: 2}, {W: 1}}[:1]) },
+		func() []rooms.Room { return rooms.Items([]api.Item{{Row: r()}, {Row: r()[:1]}}) },
+	} {
+		if fault := rooms.Fault(nil, func() ([]rooms.Room, string) { return ask(), "" }); fault != "something lies behind a list that is answered" {
+			t.Errorf("case %d: got %q", i, fault)
+		}
+	}
+	empty := func() ([]rooms.Room, string) {
+		all := slices.Concat(rooms.Ints(append(make([]int, 0, 9), 7)), rooms.Dots(make([]api.Dot, 2, 5)), rooms.Values(r()[:2]))
+		return slices.Concat(all, rooms.Rows([][]api.Value{r()[:2], nil}[:1]), rooms.Items([]api.Item{{Row: r()[:2]}, {}}[:1])), ""
+	}
+	if fault := rooms.Fault(nil, empty); fault != "" {
+		t.Errorf("got %q", fault)
+	}
+}
+
+// call asks of numbers what its ask answers; it keeps how often that was asked.
+type call struct {
+	in    []int
+	asked *int
+	ask   func(c call) []int
+}
+
+func (c call) Roomy() call         { return call{rooms.SpareInts(c.in), c.asked, c.ask} }
+func (c call) Rooms() []rooms.Room { return rooms.Ints(c.in) }
+
+func (c call) Answers() ([]rooms.Room, string) {
+	*c.asked++
+	out := c.ask(c)
+	return rooms.Ints(out), fmt.Sprint(out)
+}
+
+func TestFaults(t *testing.T) {
+	asks := []func(c call) []int{
+		func(c call) []int { return slices.Clone(c.in) },
+		func(c call) []int { return append([]int{0}, slices.Clone(c.in[:min(3, cap(c.in))])[2:]...) },
+		func(c call) []int { return c.in[:1:1] },
+		func(c call) []int { return nil },
+	}
+	for k, wants := range [][]string{
+		nil,
+		{"call 1: with spare room it tells [0 3], without it [0]"},
+		{"call 2: lists share memory: 0 1 of 1 1 1"},
+		nil,
+	} {
+		var calls []call
+		asked := 0
+		for i := range asks {
+			calls = append(calls, call{make([]int, 2), &asked, asks[0]})
+			if i == k {
+				calls[i].ask = asks[k]
+			}
+		}
+		if got := rooms.Faults(calls); !slices.Equal(got, wants) {
+			t.Errorf("ask %d: got %q, want %q", k, got, wants)
+		}
+	}
+	// What was asked ahead tells in what is told now.
+	asked := 0
+	count := func(c call) []int { return []int{*c.asked} }
+	got := rooms.Faults([]call{{nil, &asked, asks[3]}, {nil, &asked, count}, {nil, &asked, asks[3]}})
+	want := []string{"call 1: it told [2], and now [8]", "call 1: with spare room it tells [9], without it [2]", "call 1: it tells [10], and then [11]"}
+	if !slices.Equal(got, want) {
+		t.Errorf("got %q, want %q", got, want)
 	}
 }

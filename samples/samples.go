@@ -1,4 +1,4 @@
-// Package samples stands beside the layers, for their tests: Values, right and not, that several of them ask.
+// Package samples stands beside the layers, for their tests: values, rows and sets, right and not, that several of them ask.
 package samples
 
 import (

@@ -11,7 +11,7 @@ import (
 	"raddle/tab"
 )
 
-// R2
+// R2 and R3
 
 func roomsOfRows(l []api.Row) []rooms.Room {
 	all := []rooms.Room{rooms.Of(l, madeRow, sameRow)}
@@ -46,17 +46,17 @@ type call struct {
 	frontier []int
 }
 
-func (c call) roomy() call {
+func (c call) Roomy() call {
 	return call{api.Table{Cols: rooms.SpareInts(c.f.Cols)}, roomyRows(c.l), roomyOp(c.x), rooms.SpareInts(c.frontier)}
 }
 
-func (c call) rooms() []rooms.Room {
+func (c call) Rooms() []rooms.Room {
 	rest := slices.Concat(rooms.Ints(c.f.Cols), rooms.Ints(c.frontier), rooms.Ints(c.x.Deps), rooms.Values(c.x.Vals), rooms.Dots(c.x.Dots))
 	return append(roomsOfRows(c.l), rest...)
 }
 
-// answers asks all calls; it has the memory of what they answer, and tells it as it is up to its length.
-func (c call) answers() (all []rooms.Room, told string) {
+// Answers asks all calls; it has the memory of what they answer, and tells it as it is up to its length.
+func (c call) Answers() (all []rooms.Room, told string) {
 	next, gone, come, e := tab.Apply(c.f, c.l, c.x)
 	left, n, g := tab.Compact(c.f, c.l, c.frontier)
 	seen := tab.Seen(c.f, c.l)
@@ -82,13 +82,11 @@ func calls() []call {
 }
 
 // What is handed in stays, and none of an answer is touched by what is done to another one, of that answer, of another,
-// or of what was handed in.
-func TestAnswersAreNewMemory(t *testing.T) {
-	for i, c := range calls() {
-		in := c.roomy()
-		if fault := rooms.Fault(in.rooms(), in.answers); fault != "" {
-			t.Errorf("call %d, %v: %s", i, c, fault)
-		}
+// or of what was handed in. What lies behind the length of a list is not read, and nothing of it lies behind those of an
+// answer. What was asked ahead does not tell in what is told.
+func TestMemoryOfAnswers(t *testing.T) {
+	for _, fault := range rooms.Faults(calls()) {
+		t.Error(fault)
 	}
 }
 
@@ -105,38 +103,9 @@ func TestOneListAtSeveralPlaces(t *testing.T) {
 		for i, x := range ops {
 			x.Deps = frontier
 			c := call{form(), []api.Row{base, twin, dead, third}, x, frontier}
-			stays := rooms.Keep(c.rooms())
-			if fault := rooms.Fault(nil, c.answers); fault != "" || !stays() {
+			stays := rooms.Keep(c.Rooms())
+			if fault := rooms.Fault(nil, c.Answers); fault != "" || !stays() {
 				t.Errorf("%q, operation %d: %s; handed in is now %v", key, i, fault, c)
-			}
-		}
-	}
-}
-
-// What lies behind the length of a list is not read, and nothing lies behind those of an answer.
-func TestSpareRoomIsNotRead(t *testing.T) {
-	for i, c := range calls() {
-		_, want := c.answers()
-		if _, got := c.roomy().answers(); got != want {
-			t.Errorf("call %d: got %s, want %s", i, got, want)
-		}
-		next, gone, come, _ := tab.Apply(c.f, c.l, c.x)
-		left, _, _ := tab.Compact(c.f, c.l, c.frontier)
-		for _, r := range slices.Concat(next[len(next):cap(next)], left[len(left):cap(left)]) {
-			if !sameRow(r, api.Row{}) {
-				t.Errorf("call %d: behind the rows lies %v", i, r)
-			}
-		}
-		for _, v := range slices.Concat(gone[len(gone):cap(gone)], come[len(come):cap(come)]) {
-			if v != (api.Value{}) {
-				t.Errorf("call %d: behind what is seen lies %v", i, v)
-			}
-		}
-		for _, r := range slices.Concat(next, left) {
-			for _, d := range r.Dots[len(r.Dots):cap(r.Dots)] {
-				if d != (api.Dot{}) {
-					t.Errorf("call %d: behind %v lies %v", i, r.Dots, d)
-				}
 			}
 		}
 	}
@@ -159,23 +128,6 @@ func TestNilIsAnEmptyList(t *testing.T) {
 	wantCompact(t, []api.Row{bare}, []int{2, 4}, "")
 	wantCompact(t, []api.Row{bare}, []int{2, 3}, "d")
 	wantRefused(t, "no Deps", form(), nil, api.Op{Kind: api.OpInsert, Deps: []int{}}, api.ErrArg)
-}
-
-// R3
-
-func TestAnswersHangOnArgumentsAlone(t *testing.T) {
-	var want []string
-	for _, c := range calls() {
-		_, told := c.answers()
-		want = append(want, told)
-	}
-	all := calls()
-	for i := range all {
-		k := len(all) - 1 - i
-		if _, told := all[k].answers(); told != want[k] {
-			t.Errorf("call %d: got %s, and then %s", k, want[k], told)
-		}
-	}
 }
 
 // R1

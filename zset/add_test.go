@@ -6,6 +6,7 @@ import (
 	"testing"
 
 	"raddle/api"
+	"raddle/samples"
 	"raddle/zset"
 )
 
@@ -62,8 +63,8 @@ func TestAdd(t *testing.T) {
 
 func TestAddOfOneThatIsNotRight(t *testing.T) {
 	over := items(at(most, 1))
-	for _, z := range wrongSets() {
-		for _, other := range [][]api.Item{nil, over, whole(), z} {
+	for _, z := range samples.WrongSets() {
+		for _, other := range [][]api.Item{nil, over, samples.Set(), z} {
 			wantAdd(t, z, other, nil, api.ErrArg)
 			wantAdd(t, other, z, nil, api.ErrArg)
 		}
@@ -123,12 +124,12 @@ func TestNeg(t *testing.T) {
 	wantNeg(t, nil, nil, api.OK)
 	wantNeg(t, items(of(4)), items(of(-4)), api.OK)
 	wantNeg(t, items(at(most, 1), at(-most, 2), at(1, 3), at(-1, 4)), items(at(-most, 1), at(most, 2), at(-1, 3), at(1, 4)), api.OK)
-	want := whole()
+	want := samples.Set()
 	for i := range want {
 		want[i].W *= -1
 	}
-	wantNeg(t, whole(), want, api.OK)
-	for _, z := range wrongSets() {
+	wantNeg(t, samples.Set(), want, api.OK)
+	for _, z := range samples.WrongSets() {
 		wantNeg(t, z, nil, api.ErrArg)
 	}
 }
@@ -138,14 +139,14 @@ func TestNeg(t *testing.T) {
 func TestWeight(t *testing.T) {
 	wantWeight(t, nil, nil, 0)
 	wantWeight(t, nil, rowOf(1), 0)
-	for _, x := range whole() {
-		wantWeight(t, whole(), x.Row, x.W)
+	for _, x := range samples.Set() {
+		wantWeight(t, samples.Set(), x.Row, x.W)
 	}
-	for i, x := range whole() {
-		wantWeight(t, slices.Delete(whole(), i, i+1), x.Row, 0)
+	for i, x := range samples.Set() {
+		wantWeight(t, slices.Delete(samples.Set(), i, i+1), x.Row, 0)
 	}
-	for _, r := range [][]api.Value{rowOf(1), rowOf(-1), {text("1")}, {num(0), num(0), num(0)}, many(api.MaxArity+1, null()), {null(), null(), null()}, {{}}, {{Kind: api.Null, I: 1}}, {{Kind: api.Int, I: 2, S: "x"}}} {
-		wantWeight(t, whole(), r, 0)
+	for _, r := range [][]api.Value{rowOf(1), rowOf(-1), {text("1")}, {num(0), num(0), num(0)}, slices.Repeat([]api.Value{null()}, api.MaxArity+1), {null(), null(), null()}, {{}}, {{Kind: api.Null, I: 1}}, {{Kind: api.Int, I: 2, S: "x"}}} {
+		wantWeight(t, samples.Set(), r, 0)
 	}
 }
 
@@ -158,14 +159,14 @@ func TestWeightOfAnySet(t *testing.T) {
 	wantWeight(t, items(at(4, 3), at(3, 2), at(2, 1)), rowOf(2), 3)
 	wantWeight(t, items(at(4, 3), at(3, 2), at(2, 1)), rowOf(1), 2)
 	wantWeight(t, items(at(4, 3), at(3, 2), at(2, 1)), rowOf(4), 0)
-	for _, w := range wrongWeights() {
+	for _, w := range samples.WrongWeights() {
 		wantWeight(t, items(at(1, 1), at(w, 2)), rowOf(2), w)
 	}
-	for _, r := range wrongRows() {
+	for _, r := range samples.WrongRows() {
 		wantWeight(t, items(at(1, 1), of(6, r...), of(7, r...)), r, 6)
 		wantWeight(t, items(at(1, 1), of(6, r...)), rowOf(1), 1)
 	}
-	back := whole()
+	back := samples.Set()
 	slices.Reverse(back)
 	for _, x := range back {
 		wantWeight(t, slices.Concat(back, items(of(99, x.Row...))), x.Row, x.W)
@@ -183,7 +184,7 @@ func TestSize(t *testing.T) {
 	wantSize(t, items(at(-3, 1), at(-4, 2), at(7, 3)), 14)
 	wantSize(t, items(at(most, 1)), most)
 	wantSize(t, items(at(-most, 1)), most)
-	for _, z := range wrongSets() {
+	for _, z := range samples.WrongSets() {
 		wantSize(t, z, 0)
 	}
 }
@@ -244,7 +245,7 @@ func sum(t *testing.T, a, b []api.Item) []api.Item {
 func smallSet(r *rand.Rand) []api.Item {
 	var l []api.Item
 	for range r.Intn(30) {
-		l = append(l, of(r.Intn(7)-3, ascending()[r.Intn(23)]...))
+		l = append(l, of(r.Intn(7)-3, samples.Rows()[r.Intn(23)]...))
 	}
 	z, _ := zset.Make(l)
 	return z

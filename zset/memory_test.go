@@ -9,10 +9,11 @@ import (
 
 	"raddle/api"
 	"raddle/rooms"
+	"raddle/samples"
 	"raddle/zset"
 )
 
-// R2
+// R2 and R3
 
 // call is one of each function, with two sets, right or not, and with rows.
 type call struct {
@@ -20,16 +21,16 @@ type call struct {
 	l    [][]api.Value
 }
 
-func (c call) roomy() call {
+func (c call) Roomy() call {
 	return call{rooms.SpareItems(c.a), rooms.SpareItems(c.b), rooms.SpareRows(c.l)}
 }
 
-func (c call) rooms() []rooms.Room {
+func (c call) Rooms() []rooms.Room {
 	return slices.Concat(rooms.Items(c.a), rooms.Items(c.b), rooms.Rows(c.l))
 }
 
-// answers asks all calls; it has the memory of what they answer, and tells it as it is up to its length.
-func (c call) answers() (all []rooms.Room, told string) {
+// Answers asks all calls; it has the memory of what they answer, and tells it as it is up to its length.
+func (c call) Answers() (all []rooms.Room, told string) {
 	for _, answer := range []func() ([]api.Item, api.Errno){
 		func() ([]api.Item, api.Errno) { return zset.Make(c.a) },
 		func() ([]api.Item, api.Errno) { return zset.Make(slices.Concat(c.a, c.b)) },
@@ -54,13 +55,13 @@ func (c call) answers() (all []rooms.Room, told string) {
 
 // calls has such as change much, little and nothing, and such as tell an error.
 func calls() []call {
-	back := whole()
+	back := samples.Set()
 	slices.Reverse(back)
 	sets := [][]api.Item{
-		nil, items(of(3)), items(at(2, 1), at(-3, 4)), items(at(-2, 1), at(3, 4)), whole(), whole()[:6], whole()[4:15], back, back[3:9],
+		nil, items(of(3)), items(at(2, 1), at(-3, 4)), items(at(-2, 1), at(3, 4)), samples.Set(), samples.Set()[:6], samples.Set()[4:15], back, back[3:9],
 		items(at(most, 1)), items(at(most, 1), at(1, 2)), items(at(1, 2), at(1, 2), at(1, 1)), items(at(0, 1), at(5, 5)), items(at(most+1, 1)), items(of(1, api.Value{})),
 	}
-	rows := [][][]api.Value{nil, {rowOf(2), rowOf(1), rowOf(2)}, ascending(), {nil, rowOf(4), {{}}}}
+	rows := [][][]api.Value{nil, {rowOf(2), rowOf(1), rowOf(2)}, samples.Rows(), {nil, rowOf(4), {{}}}}
 	var all []call
 	for i, a := range sets {
 		for k, b := range sets {
@@ -71,13 +72,11 @@ func calls() []call {
 }
 
 // What is handed in stays, and none of an answer is touched by what is done to another one, of that answer, of another,
-// or of what was handed in.
-func TestAnswersAreNewMemory(t *testing.T) {
-	for i, c := range calls() {
-		in := c.roomy()
-		if fault := rooms.Fault(in.rooms(), in.answers); fault != "" {
-			t.Errorf("call %d, %v: %s", i, c, fault)
-		}
+// or of what was handed in. What lies behind the length of a list is not read, and nothing of it lies behind those of an
+// answer. What was asked ahead does not tell in what is told.
+func TestMemoryOfAnswers(t *testing.T) {
+	for _, fault := range rooms.Faults(calls()) {
+		t.Error(fault)
 	}
 }
 
@@ -86,38 +85,9 @@ func TestOneListAtSeveralPlaces(t *testing.T) {
 	long := rowOf(5, 6, 7, 8)
 	z := items(api.Item{Row: long[:1], W: 1}, api.Item{Row: long[:2], W: -2}, api.Item{Row: long[:4], W: most})
 	c := call{z, z, [][]api.Value{long, long[:2], long, long[:0]}}
-	stays := rooms.Keep(c.rooms())
-	if fault := rooms.Fault(nil, c.answers); fault != "" || !stays() {
+	stays := rooms.Keep(c.Rooms())
+	if fault := rooms.Fault(nil, c.Answers); fault != "" || !stays() {
 		t.Errorf("%s; handed in is now %v", fault, c)
-	}
-}
-
-// What lies behind the length of a list is not read, and nothing of it lies behind those of an answer.
-func TestSpareRoomIsNotRead(t *testing.T) {
-	for i, c := range calls() {
-		_, want := c.answers()
-		in := c.roomy()
-		if _, got := in.answers(); got != want {
-			t.Errorf("call %d: got %s, want %s", i, got, want)
-		}
-		made, _ := zset.Make(in.a)
-		rows, _ := zset.Rows(in.l)
-		both, _ := zset.Add(in.a, in.b)
-		turned, _ := zset.Neg(in.a)
-		for _, z := range [][]api.Item{made, rows, both, turned} {
-			for _, x := range z[len(z):cap(z)] {
-				if !sameItem(x, api.Item{}) {
-					t.Errorf("call %d: behind the Items lies %v", i, x)
-				}
-			}
-			for _, x := range z {
-				for _, v := range x.Row[len(x.Row):cap(x.Row)] {
-					if v != (api.Value{}) {
-						t.Errorf("call %d: behind a Row lies %v", i, v)
-					}
-				}
-			}
-		}
 	}
 }
 
@@ -142,23 +112,6 @@ func TestNilIsAnEmptyList(t *testing.T) {
 	wantWeight(t, items(of(3)), []api.Value{}, 3)
 }
 
-// R3
-
-func TestAnswersHangOnArgumentsAlone(t *testing.T) {
-	var want []string
-	for _, c := range calls() {
-		_, told := c.answers()
-		want = append(want, told)
-	}
-	all := calls()
-	for i := range all {
-		k := len(all) - 1 - i
-		if _, told := all[k].answers(); told != want[k] {
-			t.Errorf("call %d: got %s, and then %s", k, want[k], told)
-		}
-	}
-}
-
 // R1
 
 // anyNumber tells one that may stand somewhere, or at an end of what may.
@@ -169,11 +122,11 @@ func anyNumber(r *rand.Rand) int {
 
 func anyRow(r *rand.Rand) []api.Value {
 	if r.Intn(3) > 0 {
-		return ascending()[r.Intn(len(ascending()))]
+		return samples.Rows()[r.Intn(len(samples.Rows()))]
 	}
 	var l []api.Value
 	for range []int{0, 1, 2, 12, 13, 300}[r.Intn(6)] {
-		l = append(l, api.Value{Kind: anyNumber(r), I: anyNumber(r), S: []string{"", "a", longest() + "x"}[r.Intn(3)]})
+		l = append(l, api.Value{Kind: anyNumber(r), I: anyNumber(r), S: []string{"", "a", samples.Longest() + "x"}[r.Intn(3)]})
 	}
 	return l
 }

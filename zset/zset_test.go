@@ -2,29 +2,21 @@ package zset_test
 
 import (
 	"fmt"
-	"math"
 	"math/big"
 	"math/rand"
 	"slices"
-	"strings"
 	"testing"
 
 	"raddle/api"
+	"raddle/samples"
 	"raddle/zset"
 )
 
 const most = api.MaxWeight
 
 func null() api.Value         { return api.Value{Kind: api.Null} }
-func truth(i int) api.Value   { return api.Value{Kind: api.Bool, I: i} }
 func num(i int) api.Value     { return api.Value{Kind: api.Int, I: i} }
 func text(s string) api.Value { return api.Value{Kind: api.Text, S: s} }
-
-// longest is as long as a text may be.
-func longest() string { return strings.Repeat("x", api.MaxText) }
-
-// many has n Values, each of them v.
-func many(n int, v api.Value) []api.Value { return slices.Repeat([]api.Value{v}, n) }
 
 // of has one Item of a row.
 func of(w int, r ...api.Value) api.Item { return api.Item{Row: r, W: w} }
@@ -42,102 +34,11 @@ func rowOf(l ...int) []api.Value {
 
 func items(l ...api.Item) []api.Item { return l }
 
-// ascending has right rows, each ahead of those behind it.
-func ascending() [][]api.Value {
-	return [][]api.Value{
-		nil,
-		{null()},
-		{null(), null()},
-		many(api.MaxArity-1, null()),
-		many(api.MaxArity, null()),
-		{null(), truth(0)},
-		{truth(0)},
-		{truth(0), num(-api.MaxValue)},
-		{truth(1)},
-		{num(-api.MaxValue)},
-		{num(-1), text("b")},
-		{num(0)},
-		{num(0), num(0)},
-		{num(0), num(1)},
-		{num(2)},
-		{num(10)},
-		{num(api.MaxValue)},
-		{text("")},
-		{text(""), null()},
-		{text("10")},
-		{text("2")},
-		many(api.MaxArity, text(longest())),
-		{text("\xff")},
-	}
-}
-
-// wrongRows has one of each way in which a row is not right, those that are too long among them.
-func wrongRows() [][]api.Value {
-	var all [][]api.Value
-	for _, v := range []api.Value{
-		{}, {Kind: -1}, {Kind: api.Text + 1}, {Kind: api.Null, I: 1}, {Kind: api.Null, S: "x"}, truth(-1), truth(2), {Kind: api.Bool, S: "x"},
-		num(-api.MaxValue - 1), num(api.MaxValue + 1), num(math.MinInt), {Kind: api.Int, S: "x"}, text(longest() + "x"), {Kind: api.Text, I: 1},
-	} {
-		last := append(many(api.MaxArity-1, num(0)), v)
-		all = append(all, []api.Value{v}, []api.Value{num(0), v}, []api.Value{v, num(0)}, last)
-	}
-	return append(all, many(api.MaxArity+1, null()), many(api.MaxArity+1, num(7)), many(257, num(7)), make([]api.Value, api.MaxArity+1))
-}
-
-func wrongWeights() []int {
-	return []int{most + 1, -most - 1, most * 2, -most * 2, math.MaxInt, math.MinInt, math.MinInt + 1}
-}
-
-// wrongItems has such as Make and Check both refuse.
-func wrongItems() []api.Item {
-	var all []api.Item
-	for _, r := range wrongRows() {
-		all = append(all, of(1, r...), of(-most, r...))
-	}
-	for _, w := range wrongWeights() {
-		all = append(all, at(w, 3), of(w))
-	}
-	return all
-}
-
-// whole is the set of all ascending rows, with weights of both signs.
-func whole() []api.Item {
-	var z []api.Item
-	for i, r := range ascending() {
-		z = append(z, of([]int{1, -1, 2, most, -most, -3, most - 1}[i%7], r...))
-	}
-	return z
-}
-
 // with has z with x in the place of one.
 func with(z []api.Item, place int, x api.Item) []api.Item {
 	out := slices.Clone(z)
 	out[place] = x
 	return out
-}
-
-// wrongSets has one of each way in which a set is not right, at the first Item, in the middle and at the last.
-func wrongSets() [][]api.Item {
-	var all [][]api.Item
-	for _, x := range append(wrongItems(), at(0, 3), of(0)) {
-		all = append(all, items(x), items(x, of(1, text("z"))), items(of(1, text("a")), x, of(1, text("z"))))
-		for _, place := range []int{0, 5, len(whole()) - 1} {
-			all = append(all, with(whole(), place, x))
-		}
-	}
-	for i, x := range whole() {
-		zero := with(whole(), i, api.Item{Row: x.Row})
-		all = append(all, zero)
-		if i > 0 {
-			twin := with(whole(), i, api.Item{Row: whole()[i-1].Row, W: x.W})
-			turned := with(with(whole(), i, whole()[i-1]), i-1, x)
-			all = append(all, twin, turned, items(whole()[i-1], whole()[i-1]), items(x, whole()[i-1]))
-		}
-	}
-	for _, w := range []int{1, -1, most} {
-		all = append(all, items(at(w), at(w)), items(at(w, 2), at(-w, 2)), items(at(w, 2), at(w, 1)), items(at(w, 1), at(w, 3), at(w, 2)), items(at(w, 1), at(w, 2), at(w, 2)), items(at(w, 1), at(w, 2), at(w, 1)), items(at(w, 1, 1), at(w, 1)))
-	}
-	return all
 }
 
 func sameItem(a, b api.Item) bool { return slices.Equal(a.Row, b.Row) && a.W == b.W }
@@ -219,32 +120,32 @@ func wideSum(l []api.Item) ([]api.Item, api.Errno) {
 
 func TestRightSets(t *testing.T) {
 	wantCheck(t, nil, api.OK)
-	wantCheck(t, whole(), api.OK)
-	for i, x := range whole() {
+	wantCheck(t, samples.Set(), api.OK)
+	for i, x := range samples.Set() {
 		wantCheck(t, items(x), api.OK)
-		wantCheck(t, whole()[:i], api.OK)
-		wantCheck(t, whole()[i:], api.OK)
+		wantCheck(t, samples.Set()[:i], api.OK)
+		wantCheck(t, samples.Set()[i:], api.OK)
 		for _, w := range []int{1, -1, most, -most, most - 1, 1 - most, 1 << 32, -1 << 32} {
-			wantCheck(t, with(whole(), i, of(w, x.Row...)), api.OK)
+			wantCheck(t, with(samples.Set(), i, of(w, x.Row...)), api.OK)
 		}
 		for k := range i {
-			wantCheck(t, items(whole()[k], x), api.OK)
+			wantCheck(t, items(samples.Set()[k], x), api.OK)
 		}
 	}
 }
 
 func TestWrongSets(t *testing.T) {
-	for _, z := range wrongSets() {
+	for _, z := range samples.WrongSets() {
 		wantCheck(t, z, api.ErrArg)
 	}
 }
 
 // Rows rise at each place: none of those behind another one may be alike to it, or ahead of it.
 func TestRowsOutOfOrder(t *testing.T) {
-	for i, x := range whole() {
+	for i, x := range samples.Set() {
 		for k := range i + 1 {
-			wantCheck(t, items(x, whole()[k]), api.ErrArg)
-			wantCheck(t, append(whole(), whole()[k]), api.ErrArg)
+			wantCheck(t, items(x, samples.Set()[k]), api.ErrArg)
+			wantCheck(t, append(samples.Set(), samples.Set()[k]), api.ErrArg)
 		}
 	}
 }
@@ -266,30 +167,30 @@ func TestMake(t *testing.T) {
 }
 
 func TestMakeOfAnyOrder(t *testing.T) {
-	wantMake(t, whole(), whole(), api.OK)
-	back := whole()
+	wantMake(t, samples.Set(), samples.Set(), api.OK)
+	back := samples.Set()
 	slices.Reverse(back)
-	wantMake(t, back, whole(), api.OK)
+	wantMake(t, back, samples.Set(), api.OK)
 	r := rand.New(rand.NewSource(1))
 	for range 300 {
-		l := whole()
+		l := samples.Set()
 		r.Shuffle(len(l), func(i, k int) { l[i], l[k] = l[k], l[i] })
-		wantMake(t, l, whole(), api.OK)
+		wantMake(t, l, samples.Set(), api.OK)
 		l = append(l, l...)
 		for i := range len(l) / 2 {
 			l[i].W = 0
 		}
 		r.Shuffle(len(l), func(i, k int) { l[i], l[k] = l[k], l[i] })
-		wantMake(t, l, whole(), api.OK)
+		wantMake(t, l, samples.Set(), api.OK)
 	}
 }
 
 func TestMakeOfAWrongItem(t *testing.T) {
-	for _, x := range wrongItems() {
+	for _, x := range samples.WrongItems() {
 		wantMake(t, items(x), nil, api.ErrArg)
 		wantMake(t, items(x, x), nil, api.ErrArg)
-		for place := range whole() {
-			wantMake(t, with(whole(), place, x), nil, api.ErrArg)
+		for place := range samples.Set() {
+			wantMake(t, with(samples.Set(), place, x), nil, api.ErrArg)
 		}
 		// That a sum is beyond the bounds is told of right Items alone, wherever they stand.
 		for _, w := range []int{most, -most} {
@@ -312,7 +213,7 @@ func TestMakeOfAWrongItem(t *testing.T) {
 
 func TestMakeAtTheBounds(t *testing.T) {
 	for _, w := range []int{1, -1} {
-		for _, r := range ascending() {
+		for _, r := range samples.Rows() {
 			wantMake(t, items(of(w*most, r...)), items(of(w*most, r...)), api.OK)
 			wantMake(t, items(of(w*(most-1), r...), of(w, r...)), items(of(w*most, r...)), api.OK)
 			wantMake(t, items(of(w*most, r...), of(w, r...)), nil, api.ErrOver)
@@ -391,7 +292,7 @@ func sumOf(l []api.Item, n int) int {
 
 // anyItems has right Items, of few rows, so that many are of the same.
 func anyItems(r *rand.Rand, n int) []api.Item {
-	rows := ascending()
+	rows := samples.Rows()
 	var l []api.Item
 	for range n {
 		w := []int{0, 1, -1, 2, -2, 3, most, -most, most - 1, r.Intn(2*most+1) - most}[r.Intn(7+r.Intn(4))]
@@ -425,7 +326,7 @@ func TestRows(t *testing.T) {
 	wantRows(t, [][]api.Value{rowOf(3), rowOf(1), rowOf(3), rowOf(2, 2), rowOf(3)}, items(at(1, 1), at(1, 2, 2), at(3, 3)), api.OK)
 	want := items()
 	var l [][]api.Value
-	for i, r := range ascending() {
+	for i, r := range samples.Rows() {
 		want = append(want, of(i+1, r...))
 		for range i + 1 {
 			l = append(l, r)
@@ -437,10 +338,10 @@ func TestRows(t *testing.T) {
 }
 
 func TestWrongRows(t *testing.T) {
-	for _, r := range wrongRows() {
+	for _, r := range samples.WrongRows() {
 		wantRows(t, [][]api.Value{r}, nil, api.ErrArg)
-		for place := range ascending() {
-			l := ascending()
+		for place := range samples.Rows() {
+			l := samples.Rows()
 			l[place] = r
 			wantRows(t, l, nil, api.ErrArg)
 		}
